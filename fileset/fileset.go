@@ -44,19 +44,19 @@ func hasName(files []api.File, name string) bool {
 func CountSlices(files []api.File, size int) int {
 	count := 0
 	for _, file := range files {
-		count += slicesOf(len(file.Data), size)
+		count += SlicesOf(len(file.Data), size)
 	}
 	return count
 }
 
-// slicesOf answers how many slices so many bytes make.
-func slicesOf(length int, size int) int {
+// SlicesOf answers how many slices so many bytes make.
+func SlicesOf(length int, size int) int {
 	return (length + size - 1) / size
 }
 
 // Cut answers a file's slices.
 func Cut(data string, size int) []string {
-	count := slicesOf(len(data), size)
+	count := SlicesOf(len(data), size)
 	filled := data + strings.Repeat("\x00", count*size-len(data))
 	slices := make([]string, count)
 	for i := range slices {

@@ -2,7 +2,7 @@ package salvage_test
 
 import (
 	"math/rand"
-	"reflect"
+	"slices"
 	"strings"
 	"testing"
 
@@ -68,20 +68,79 @@ func TestP1CreateNamesTheFirstError(t *testing.T) {
 	}
 }
 
-func TestP1LookAndRepairEndAtAllArguments(t *testing.T) {
+// wildVolumes: lists of volumes that tell of a set or just miss it.
+func wildVolumes() [][]string {
 	random := rand.New(rand.NewSource(1))
-	volumes := [][]string{nil, {}, {""}, {"SAL", "SALM", "SALM\xff"}, {strings.Repeat("SAL", 3000)}, make([]string, 50)}
-	volumes = append(volumes, []string{randomText(random, 4000), randomText(random, 9)})
-	packets, _ := salvage.Create([]api.File{{Name: "a", Data: "bcdefg"}}, 2, 3)
-	volumes = append(volumes, packets, []string{strings.Join(packets, "?")})
+	packets := refPackets([]api.File{{Name: "a", Data: "bcdefg"}}, 2, 3)
+	all := strings.Join(packets, "?")
+	// Packets that seem to begin at many bytes, and go on to the volume's end.
+	nested := ""
+	for len(nested) < 3986 {
+		nested += "SALMSALMSALM" + number(uint64(3978-len(nested)), 2)
+	}
+	return [][]string{
+		nil, {}, {""}, make([]string, 40), make([]string, 41), {"S"}, {"SA"}, {"SAL"}, {"SALM"}, {"SALM\xff"},
+		{strings.Repeat("SAL", 1333)}, {strings.Repeat("SAL", 3000)}, {strings.Repeat("SALM\x00", 800)},
+		{strings.Repeat("\x00", 4000)}, {strings.Repeat("\xff", 4000)}, slices.Repeat([]string{nested}, 40),
+		{randomText(random, 4000), randomText(random, 9)}, packets, {all}, {all[:len(all)-1]}, {all[1:]},
+		packets[1:], packets[:1], {packets[0], packets[2]}, slices.Repeat([]string{all}, 40),
+		slices.Repeat(packets, 1000), {strings.Repeat(all, 1000)},
+	}
+}
+
+func TestP1LookAndRepairEndAtAllArguments(t *testing.T) {
 	for i, files := range wildLists() {
-		for k, list := range volumes {
-			if report, errno := salvage.Look(files, list); errno != api.OK && !reflect.DeepEqual(report, api.Report{}) {
+		for k, volumes := range wildVolumes() {
+			if report, errno := salvage.Look(files, volumes); errno != api.OK && !equalReports(report, api.Report{}) {
 				t.Errorf("Look, files %d, volumes %d: %v beside the error %d", i, k, report, errno)
 			}
-			if made, errno := salvage.Repair(files, list); errno != api.OK && len(made) > 0 {
+			if made, errno := salvage.Repair(files, volumes); errno != api.OK && len(made) > 0 {
 				t.Errorf("Repair, files %d, volumes %d: %v beside the error %d", i, k, made, errno)
 			}
+		}
+	}
+}
+
+// TestP1LookEndsAtAnyLengthThatAPacketTells: a length may point behind the
+// volume's end, or leave no room for the hash.
+func TestP1LookEndsAtAnyLengthThatAPacketTells(t *testing.T) {
+	for _, kind := range []string{"M", "F", "R"} {
+		for _, told := range []uint64{0, 1, 2, 3, 11, 3978, 3979, 4000, 1<<15 - 1, 1 << 15, 1<<16 - 1} {
+			for _, behind := range []int{0, 1, 7, 8, 9, 30, 3986} {
+				volume := "SAL" + kind + number(0, 8) + number(told, 2) + strings.Repeat("\x00", behind)
+				checkRefused(t, kind, nil, []string{volume}, api.ErrSet)
+			}
+		}
+	}
+}
+
+func TestP1LookNamesTheFirstError(t *testing.T) {
+	packets := refPackets(pair, 4, 1)
+	long := strings.Repeat("x", 4001)
+	many, much := make([]api.File, 13), []api.File{{Data: long[:401]}}
+	cases := []struct {
+		what    string
+		files   []api.File
+		volumes []string
+		want    api.Errno
+	}{
+		{"too many files, no set", many, nil, api.ErrArg},
+		{"too much in a file, no set", much, packets[1:], api.ErrArg},
+		{"too many volumes, no set", nil, make([]string, 41), api.ErrArg},
+		{"too much in a volume, no set", nil, []string{long}, api.ErrArg},
+		{"too many files, a file is not told", many, packets[:2], api.ErrArg},
+		{"too much in a file, a file is not told", much, packets[:1], api.ErrArg},
+		{"too much in a volume, a file is not told", nil, []string{packets[0], long}, api.ErrArg},
+		{"too much of all", many, append(make([]string, 41), long), api.ErrArg},
+		{"no set, and no file is told", pair, packets[3:], api.ErrSet},
+		{"no set, but the files", pair, packets[1:], api.ErrSet},
+		{"a file is not told", pair, packets[:2], api.ErrList},
+		{"nothing is wrong", pair, packets, api.OK},
+	}
+	for _, c := range cases {
+		report, errno := salvage.Look(c.files, c.volumes)
+		if errno != c.want || (errno != api.OK && !equalReports(report, api.Report{})) {
+			t.Errorf("%s: %+v, error %d, want %d", c.what, report, errno, c.want)
 		}
 	}
 }

@@ -86,3 +86,101 @@ func TestP2CreateSideBySide(t *testing.T) {
 		}
 	}
 }
+
+// roomyRemains answers what is left of a set, in lists with spare room, and the
+// whole of their memory.
+func roomyRemains() ([]api.File, []api.File, []string, []string) {
+	packets := refPackets(pair, 4, 3)
+	files := []api.File{
+		{Name: "two", Data: "cdefXhijklmnop"}, {Name: "other", Data: "_0123_89ab"}, {Name: "one"},
+		{Name: "one", Data: "0123456789ab"}, {Name: "spare", Data: "4567"},
+	}
+	volumes := append([]string{"?" + packets[5] + packets[2]}, packets...)
+	return files[:3], files, volumes[:5], volumes
+}
+
+func TestP2LookLeavesItsListsAlone(t *testing.T) {
+	_, wantFiles, _, wantVolumes := roomyRemains()
+	files, wholeFiles, volumes, wholeVolumes := roomyRemains()
+	for from := range len(volumes) + 1 {
+		salvage.Look(files[:from%4], volumes[from:])
+		if !slices.Equal(wholeFiles, wantFiles) || !slices.Equal(wholeVolumes, wantVolumes) {
+			t.Fatalf("volumes from %d on: the lists have become %q, %q", from, wholeFiles, wholeVolumes)
+		}
+	}
+	// What lies in the spare room is not handed in.
+	checkReport(t, "with spare room", files, volumes, []int{2, 2}, "1011011", 2)
+}
+
+func TestP2LookKeepsNothing(t *testing.T) {
+	files, wholeFiles, volumes, wholeVolumes := roomyRemains()
+	report, errno := salvage.Look(files, volumes)
+	for i := range wholeFiles {
+		wholeFiles[i] = api.File{Name: "changed", Data: "changed"}
+	}
+	for i := range wholeVolumes {
+		wholeVolumes[i] = "changed"
+	}
+	files, _, volumes, _ = roomyRemains()
+	if again, _ := salvage.Look(files, volumes); errno != api.OK || !equalReports(again, report) {
+		t.Errorf("the report was %+v, error %d, and is %+v with changed lists", report, errno, again)
+	}
+	checkRefused(t, "nothing, after a set", nil, nil, api.ErrSet)
+}
+
+// overwrite fills a report's lists, up to the ends of their spare room.
+func overwrite(report api.Report) {
+	states, present := report.States[:cap(report.States)], report.Present[:cap(report.Present)]
+	for i := range states {
+		states[i] = -1
+	}
+	for i := range present {
+		present[i] = i%2 == 0
+	}
+}
+
+func TestP2LookAnswersNewMemory(t *testing.T) {
+	files, _, volumes, _ := roomyRemains()
+	first, _ := salvage.Look(files, volumes)
+	second, _ := salvage.Look(files, volumes)
+	want := api.Report{States: []int{2, 2}, Present: slices.Clone(second.Present), Lost: 2, Extra: 2}
+	overwrite(first)
+	if !equalReports(second, want) {
+		t.Errorf("two answers share memory: %+v", second)
+	}
+	if third, _ := salvage.Look(files, volumes); !equalReports(third, want) {
+		t.Errorf("an answer is kept: %+v", third)
+	}
+}
+
+func TestP2LookHangsOnItsArgumentsAlone(t *testing.T) {
+	random := rand.New(rand.NewSource(2))
+	for range 300 {
+		files, volumes := randomRemains(random)
+		want, wantErrno := salvage.Look(files, volumes)
+		for range 3 {
+			salvage.Look(randomRemains(random))
+			roomyFiles := append(make([]api.File, 0, 50), files...)
+			roomyVolumes := append(make([]string, 0, 90), volumes...)
+			if got, errno := salvage.Look(roomyFiles, roomyVolumes); errno != wantErrno || !equalReports(got, want) {
+				t.Fatalf("the same arguments: %+v, %d, then %+v, %d", want, wantErrno, got, errno)
+			}
+		}
+	}
+}
+
+func TestP2LookSideBySide(t *testing.T) {
+	files, _, volumes, _ := roomyRemains()
+	want, _ := salvage.Look(files, volumes)
+	answers := make([]api.Report, 8)
+	var group sync.WaitGroup
+	for i := range answers {
+		group.Go(func() { answers[i], _ = salvage.Look(files, volumes) })
+	}
+	group.Wait()
+	for i, got := range answers {
+		if !equalReports(got, want) {
+			t.Errorf("call %d answers otherwise: %+v", i, got)
+		}
+	}
+}

@@ -26,7 +26,11 @@ func Create(files []api.File, slice int, extra int) ([]string, api.Errno) {
 
 // Look tells what is left (P6).
 func Look(files []api.File, volumes []string) (api.Report, api.Errno) {
-	return api.Report{}, api.OK
+	left, errno := gather(files, volumes)
+	if errno != api.OK {
+		return api.Report{}, errno
+	}
+	return left.report(files), api.OK
 }
 
 // Repair makes files anew (P7).
