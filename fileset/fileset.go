@@ -64,3 +64,9 @@ func Cut(data string, size int) []string {
 	}
 	return slices
 }
+
+// Join answers the file of the given length that is cut into these slices. It
+// shares no memory with them.
+func Join(slices []string, length int) string {
+	return strings.Clone(strings.Join(slices, "")[:length])
+}

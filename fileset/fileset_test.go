@@ -81,6 +81,37 @@ func TestCut(t *testing.T) {
 	}
 }
 
+func TestJoin(t *testing.T) {
+	cases := []struct {
+		slices []string
+		length int
+		want   string
+	}{
+		{nil, 0, ""},
+		{[]string{"ab"}, 2, "ab"},
+		{[]string{"ab"}, 1, "a"},
+		{[]string{"ab", "c\x00"}, 3, "abc"},
+		{[]string{"abcd", "e\x00\x00\x00"}, 6, "abcde\x00"},
+		{[]string{"abcd", "efgh"}, 7, "abcdefg"},
+	}
+	for _, c := range cases {
+		if got := Join(c.slices, c.length); got != c.want {
+			t.Errorf("Join(%q, %d) = %q, want %q", c.slices, c.length, got, c.want)
+		}
+	}
+}
+
+func TestJoinUndoesCut(t *testing.T) {
+	data := strings.Repeat("some bytes\x00", 40)[:api.MaxData]
+	for length := range len(data) + 1 {
+		for size := 2; size <= api.MaxSlice; size += 2 {
+			if got := Join(Cut(data[:length], size), length); got != data[:length] {
+				t.Fatalf("%d bytes in slices of %d come back as %q", length, size, got)
+			}
+		}
+	}
+}
+
 func TestCountSlicesIsWhatCutMakes(t *testing.T) {
 	for length := 0; length <= api.MaxData; length++ {
 		data := strings.Repeat("d", length)

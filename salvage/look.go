@@ -9,8 +9,9 @@ import (
 
 // remains is what is left of a set.
 type remains struct {
+	size   int                  // bytes of a slice
 	files  []packet.FileInfo    // of the set, in its order
-	count  int                  // of its slices
+	count  int                  // of all slices
 	pieces map[int]search.Piece // the slices that are present, by their numbers
 	extras []packet.ExtraInfo   // the least numbers first
 }
@@ -30,6 +31,7 @@ func gather(files []api.File, volumes []string) (remains, api.Errno) {
 		return remains{}, api.ErrList
 	}
 	return remains{
+		size:   set.Size(),
 		files:  listed,
 		count:  len(hashes),
 		pieces: search.Find(files, set.Size(), hashes),
@@ -87,10 +89,13 @@ func (r remains) report(handed []api.File) api.Report {
 	return api.Report{
 		States:  states,
 		Present: present,
-		Lost:    r.count - len(r.pieces),
+		Lost:    r.lost(),
 		Extra:   len(r.extras),
 	}
 }
+
+// lost answers how many slices are not present.
+func (r remains) lost() int { return r.count - len(r.pieces) }
 
 // stateOf tells the state of a file of the set: only the first one of its name
 // that was handed in counts.

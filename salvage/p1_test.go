@@ -114,33 +114,49 @@ func TestP1LookEndsAtAnyLengthThatAPacketTells(t *testing.T) {
 	}
 }
 
-func TestP1LookNamesTheFirstError(t *testing.T) {
+// TestP1LookAndRepairNameTheFirstError: Repair has two errors more, behind those
+// of Look.
+func TestP1LookAndRepairNameTheFirstError(t *testing.T) {
 	packets := refPackets(pair, 4, 1)
 	long := strings.Repeat("x", 4001)
 	many, much := make([]api.File, 13), []api.File{{Data: long[:401]}}
+	half := []api.File{{Name: "one", Data: "0123"}}
+	otherHash := toldFile([]string{"0123", "4567"}, 8, 0)
 	cases := []struct {
 		what    string
 		files   []api.File
 		volumes []string
-		want    api.Errno
+		look    api.Errno
+		repair  api.Errno
 	}{
-		{"too many files, no set", many, nil, api.ErrArg},
-		{"too much in a file, no set", much, packets[1:], api.ErrArg},
-		{"too many volumes, no set", nil, make([]string, 41), api.ErrArg},
-		{"too much in a volume, no set", nil, []string{long}, api.ErrArg},
-		{"too many files, a file is not told", many, packets[:2], api.ErrArg},
-		{"too much in a file, a file is not told", much, packets[:1], api.ErrArg},
-		{"too much in a volume, a file is not told", nil, []string{packets[0], long}, api.ErrArg},
-		{"too much of all", many, append(make([]string, 41), long), api.ErrArg},
-		{"no set, and no file is told", pair, packets[3:], api.ErrSet},
-		{"no set, but the files", pair, packets[1:], api.ErrSet},
-		{"a file is not told", pair, packets[:2], api.ErrList},
-		{"nothing is wrong", pair, packets, api.OK},
+		{"too many files, no set", many, nil, api.ErrArg, api.ErrArg},
+		{"too much in a file, no set", much, packets[1:], api.ErrArg, api.ErrArg},
+		{"too many volumes, no set", nil, make([]string, 41), api.ErrArg, api.ErrArg},
+		{"too much in a volume, no set", nil, []string{long}, api.ErrArg, api.ErrArg},
+		{"too many files, a file is not told", many, packets[:2], api.ErrArg, api.ErrArg},
+		{"too much in a file, a file is not told", much, packets[:1], api.ErrArg, api.ErrArg},
+		{"too much in a volume, a file is not told", nil, []string{packets[0], long}, api.ErrArg, api.ErrArg},
+		{"too much of all", many, append(make([]string, 41), long), api.ErrArg, api.ErrArg},
+		{"too many files, too much is lost", many, packets, api.ErrArg, api.ErrArg},
+		{"too much in a file, another hash", much, otherHash, api.ErrArg, api.ErrArg},
+		{"no set, and no file is told", pair, packets[3:], api.ErrSet, api.ErrSet},
+		{"no set, but the files", pair, packets[1:], api.ErrSet, api.ErrSet},
+		{"no set, and all is lost", nil, packets[1:], api.ErrSet, api.ErrSet},
+		{"a file is not told", pair, packets[:2], api.ErrList, api.ErrList},
+		{"a file is not told, and all is lost", nil, packets[:2], api.ErrList, api.ErrList},
+		{"too much is lost", half, packets, api.OK, api.ErrLost},
+		{"too much is lost, and another hash", half, otherHash, api.OK, api.ErrLost},
+		{"another hash", []api.File{{Data: "01234567"}}, otherHash, api.OK, api.ErrHash},
+		{"nothing is wrong", pair, packets, api.OK, api.OK},
 	}
 	for _, c := range cases {
 		report, errno := salvage.Look(c.files, c.volumes)
-		if errno != c.want || (errno != api.OK && !equalReports(report, api.Report{})) {
-			t.Errorf("%s: %+v, error %d, want %d", c.what, report, errno, c.want)
+		if errno != c.look || (errno != api.OK && !equalReports(report, api.Report{})) {
+			t.Errorf("%s: Look: %+v, error %d, want %d", c.what, report, errno, c.look)
+		}
+		made, errno := salvage.Repair(c.files, c.volumes)
+		if errno != c.repair || (errno != api.OK && len(made) > 0) {
+			t.Errorf("%s: Repair: %q, error %d, want %d", c.what, made, errno, c.repair)
 		}
 	}
 }

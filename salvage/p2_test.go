@@ -3,8 +3,10 @@ package salvage_test
 import (
 	"math/rand"
 	"slices"
+	"strings"
 	"sync"
 	"testing"
+	"unsafe"
 
 	"salvage/api"
 	"salvage/salvage"
@@ -99,17 +101,20 @@ func roomyRemains() ([]api.File, []api.File, []string, []string) {
 	return files[:3], files, volumes[:5], volumes
 }
 
-func TestP2LookLeavesItsListsAlone(t *testing.T) {
+func TestP2LookAndRepairLeaveTheirListsAlone(t *testing.T) {
 	_, wantFiles, _, wantVolumes := roomyRemains()
 	files, wholeFiles, volumes, wholeVolumes := roomyRemains()
 	for from := range len(volumes) + 1 {
 		salvage.Look(files[:from%4], volumes[from:])
+		salvage.Repair(files[:from%4], volumes[from:])
 		if !slices.Equal(wholeFiles, wantFiles) || !slices.Equal(wholeVolumes, wantVolumes) {
 			t.Fatalf("volumes from %d on: the lists have become %q, %q", from, wholeFiles, wholeVolumes)
 		}
 	}
 	// What lies in the spare room is not handed in.
 	checkReport(t, "with spare room", files, volumes, []int{2, 2}, "1011011", 2)
+	checkMade(t, "with spare room", files, volumes, pair)
+	checkUnmade(t, "with spare room, and a packet less", files, volumes[1:], api.ErrLost)
 }
 
 func TestP2LookKeepsNothing(t *testing.T) {
@@ -181,6 +186,111 @@ func TestP2LookSideBySide(t *testing.T) {
 	for i, got := range answers {
 		if !equalReports(got, want) {
 			t.Errorf("call %d answers otherwise: %+v", i, got)
+		}
+	}
+}
+
+func TestP2RepairKeepsNothing(t *testing.T) {
+	files, wholeFiles, volumes, wholeVolumes := roomyRemains()
+	made, errno := salvage.Repair(files, volumes)
+	for i := range wholeFiles {
+		wholeFiles[i] = api.File{Name: "changed", Data: "changed"}
+	}
+	for i := range wholeVolumes {
+		wholeVolumes[i] = "changed"
+	}
+	if errno != api.OK || !slices.Equal(made, pair) {
+		t.Errorf("the files are %q, error %d, with changed lists", made, errno)
+	}
+	checkUnmade(t, "nothing, after a set", nil, nil, api.ErrSet)
+	checkUnmade(t, "the packets alone, after a set", nil, refPackets(pair, 4, 3), api.ErrLost)
+}
+
+func TestP2RepairAnswersNewMemory(t *testing.T) {
+	files, _, volumes, _ := roomyRemains()
+	first, _ := salvage.Repair(files, volumes)
+	second, _ := salvage.Repair(files, volumes)
+	for i := range first[:cap(first)] {
+		first[:cap(first)][i] = api.File{Name: "overwritten", Data: "overwritten"}
+	}
+	if !slices.Equal(second, pair) {
+		t.Errorf("two answers share memory: %q", second)
+	}
+	checkMade(t, "an answer is kept", files, volumes, pair)
+	// The list that is handed in may be just what comes out.
+	whole := slices.Clone(pair)
+	made, _ := salvage.Repair(whole, volumes)
+	made[0].Name = "changed"
+	if !slices.Equal(whole, pair) {
+		t.Errorf("the answer is the list that was handed in: %q", whole)
+	}
+}
+
+// overlap tells whether two texts lie in the same memory somewhere.
+func overlap(one string, other string) bool {
+	if one == "" || other == "" {
+		return false
+	}
+	at := uintptr(unsafe.Pointer(unsafe.StringData(one)))
+	otherAt := uintptr(unsafe.Pointer(unsafe.StringData(other)))
+	return at < otherAt+uintptr(len(other)) && otherAt < at+uintptr(len(one))
+}
+
+// TestP2RepairAnswersNewTexts: names lie in volumes, and bytes in files; files
+// of one slice would be pieces of one text.
+func TestP2RepairAnswersNewTexts(t *testing.T) {
+	random := rand.New(rand.NewSource(5))
+	for range 200 {
+		set, size := randomSet(random, 12), 2*(2+random.Intn(6))
+		set[0].Data = "same bytes"
+		set = append(set[:min(5, len(set))], api.File{Name: "again", Data: "same bytes"})
+		volumes := []string{strings.Join(refPackets(set, size, 2), "?")}
+		made, errno := salvage.Repair(set, volumes)
+		if errno != api.OK {
+			t.Fatalf("%q: error %d", set, errno)
+		}
+		given, texts := volumes, []string{}
+		for i := range set {
+			given = append(given, set[i].Name, set[i].Data)
+			texts = append(texts, made[i].Name, made[i].Data)
+		}
+		for i, text := range texts {
+			for _, other := range slices.Concat(given, texts[:i]) {
+				if overlap(text, other) {
+					t.Fatalf("%q shares memory with %q", text, other)
+				}
+			}
+		}
+	}
+}
+
+func TestP2RepairHangsOnItsArgumentsAlone(t *testing.T) {
+	random := rand.New(rand.NewSource(4))
+	for range 300 {
+		files, volumes := randomLosses(random)
+		want, wantErrno := salvage.Repair(files, volumes)
+		for range 3 {
+			salvage.Repair(randomLosses(random))
+			roomyFiles := append(make([]api.File, 0, 50), files...)
+			roomyVolumes := append(make([]string, 0, 90), volumes...)
+			if got, errno := salvage.Repair(roomyFiles, roomyVolumes); errno != wantErrno || !slices.Equal(got, want) {
+				t.Fatalf("the same arguments: %q, %d, then %q, %d", want, wantErrno, got, errno)
+			}
+		}
+	}
+}
+
+func TestP2RepairSideBySide(t *testing.T) {
+	files, _, volumes, _ := roomyRemains()
+	answers := make([][]api.File, 8)
+	var group sync.WaitGroup
+	for i := range answers {
+		group.Go(func() { answers[i], _ = salvage.Repair(files, volumes) })
+	}
+	group.Wait()
+	for i, got := range answers {
+		if !slices.Equal(got, pair) {
+			t.Errorf("call %d answers otherwise: %q", i, got)
 		}
 	}
 }

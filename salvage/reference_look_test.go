@@ -115,31 +115,34 @@ func refFiles(all []refFound, main string) ([]refFile, bool) {
 	return files, count >= 1 && count <= 60
 }
 
-// refExtras answers how many R packets count.
-func refExtras(all []refFound, main string) int {
-	count := 0
+// refExtras answers the bodies of the R packets that count, the least numbers
+// first.
+func refExtras(all []refFound, main string) []string {
+	bodies := []string{}
 	for number := range 20 {
-		if slices.ContainsFunc(all, func(found refFound) bool {
+		at := slices.IndexFunc(all, func(found refFound) bool {
 			return found.kind == "R" && found.set == refHash(main) && len(found.body) == 2+int(main[1]) &&
 				strings.HasPrefix(found.body, string([]byte{0, byte(number)}))
-		}) {
-			count++
+		})
+		if at >= 0 {
+			bodies = append(bodies, all[at].body)
 		}
 	}
-	return count
+	return bodies
 }
 
-// refPresent tells whether a slice with that hash lies in some file.
-func refPresent(files []api.File, size int, hash uint64) bool {
+// refPiece answers the first piece in the files that has a hash, and whether
+// there is one.
+func refPiece(files []api.File, size int, hash uint64) (string, bool) {
 	for _, file := range files {
 		for rest := file.Data; rest != ""; rest = rest[1:] {
 			piece := (rest + strings.Repeat("\x00", 32))[:size]
 			if refHash(piece) == hash {
-				return true
+				return piece, true
 			}
 		}
 	}
-	return false
+	return "", false
 }
 
 // refState answers the state of a file of the set.
@@ -175,11 +178,11 @@ func refLook(files []api.File, volumes []string) (api.Report, api.Errno) {
 	if !right {
 		return api.Report{}, 4
 	}
-	report := api.Report{Extra: refExtras(all, main)}
+	report := api.Report{Extra: len(refExtras(all, main))}
 	for _, file := range listed {
 		report.States = append(report.States, refState(files, file))
 		for _, hash := range file.slices {
-			present := refPresent(files, int(main[1]), hash)
+			_, present := refPiece(files, int(main[1]), hash)
 			report.Present = append(report.Present, present)
 			if !present {
 				report.Lost++

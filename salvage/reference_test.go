@@ -54,17 +54,30 @@ func refOver(a uint16, b uint16) uint16 {
 }
 
 // refValue answers, at a number, the value of the polynomial with the given
-// values at 0, 1, 2 and so on, by Neville's scheme.
-func refValue(values []uint16, at uint16) uint16 {
+// values at the given numbers, by Neville's scheme.
+func refValue(numbers []uint16, values []uint16, at uint16) uint16 {
 	row := append([]uint16{}, values...)
 	for step := 1; step < len(row); step++ {
 		for i := 0; i+step < len(row); i++ {
-			low, high := uint16(i), uint16(i+step)
+			low, high := numbers[i], numbers[i+step]
 			sum := refTimes(at^high, row[i]) ^ refTimes(at^low, row[i+1])
 			row[i] = refOver(sum, low^high)
 		}
 	}
 	return row[0]
+}
+
+// refSlice answers the slice at a number, out of those at others.
+func refSlice(numbers []uint16, slices []string, at uint16) string {
+	made := []byte{}
+	for place := 0; place < len(slices[0]); place += 2 {
+		values := []uint16{}
+		for _, slice := range slices {
+			values = append(values, binary.BigEndian.Uint16([]byte(slice[place:])))
+		}
+		made = binary.BigEndian.AppendUint16(made, refValue(numbers, values, at))
+	}
+	return string(made)
 }
 
 // refPacket writes a packet.
@@ -108,16 +121,13 @@ func refPackets(files []api.File, size int, extra int) []string {
 	for _, body := range bodies {
 		packets = append(packets, refPacket("F", set, body))
 	}
+	numbers := []uint16{}
+	for i := range all {
+		numbers = append(numbers, uint16(i))
+	}
 	for j := range extra {
-		body := binary.BigEndian.AppendUint16(nil, uint16(j))
-		for place := 0; place < size; place += 2 {
-			values := []uint16{}
-			for _, slice := range all {
-				values = append(values, binary.BigEndian.Uint16([]byte(slice[place:])))
-			}
-			body = binary.BigEndian.AppendUint16(body, refValue(values, uint16(len(all)+j)))
-		}
-		packets = append(packets, refPacket("R", set, string(body)))
+		body := string([]byte{0, byte(j)}) + refSlice(numbers, all, uint16(len(all)+j))
+		packets = append(packets, refPacket("R", set, body))
 	}
 	return packets
 }

@@ -34,4 +34,10 @@ func Look(files []api.File, volumes []string) (api.Report, api.Errno) {
 }
 
 // Repair makes files anew (P7).
-func Repair(files []api.File, volumes []string) ([]api.File, api.Errno) { return nil, api.OK }
+func Repair(files []api.File, volumes []string) ([]api.File, api.Errno) {
+	left, errno := gather(files, volumes)
+	if errno != api.OK {
+		return nil, errno
+	}
+	return left.repair()
+}
